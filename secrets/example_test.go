@@ -1,0 +1,24 @@
+package secrets_test
+
+import (
+	"fmt"
+
+	"secrets/api"
+	"secrets/secrets"
+)
+
+// The document's three actors, as README.md shows them.
+func ExampleNewOrder() {
+	o := secrets.NewOrder(3, [][2]int{{2, 0}})
+	own := []api.Policy{{Owner: 0}}
+	more := []api.Policy{{Owner: 0, Readers: 1 << 1}}
+	fmt.Println(o.Over(2, 0), o.Over(0, 2))
+	fmt.Println(o.Reads(0, own), o.Reads(1, own), o.Reads(2, own))
+	fmt.Println(o.Flows(more, own), o.Flows(own, more))
+	fmt.Println(o.Norm(own), o.Join(own, more))
+	// Output:
+	// true false
+	// true false true
+	// true false
+	// [{0 5}] [{0 5}]
+}

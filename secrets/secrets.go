@@ -1,0 +1,44 @@
+// Package secrets: labels, programs, codes that run: see DOC.md.
+package secrets
+
+import "secrets/api"
+
+// Program is a program that was read and found to keep its secrets.
+type Program struct{}
+
+// Compile reads and checks a program (P5 to P9).
+func Compile(text string) (*Program, api.Error) { return nil, nil }
+
+// Print tells its text, a statement a line (P7).
+func (p *Program) Print() string { return "" }
+
+// Labels tells the variables, in their order, each with its label, till yield says no (P8).
+func (p *Program) Labels() func(yield func(name string, l []api.Policy) bool) {
+	return func(yield func(name string, l []api.Policy) bool) {}
+}
+
+// Code tells what it is compiled to (P12).
+func (p *Program) Code() *Code { return &Code{} }
+
+// Code is what a machine runs.
+type Code struct{}
+
+// Load: the code that the bytes are (P11).
+func Load(s string) (*Code, api.Error) { return nil, nil }
+
+// Bytes tells it as bytes (P11).
+func (c *Code) Bytes() string { return "" }
+
+// Order, Ins, Outs, Frees tell who acts for whom; the labels of inputs, of outputs; how many instructions free something (P10).
+func (c *Code) Order() *Order { return &Order{} }
+
+func (c *Code) Ins() [][]api.Policy { return nil }
+
+func (c *Code) Outs() [][]api.Policy { return nil }
+
+func (c *Code) Frees() int { return 0 }
+
+// Run runs it from its beginning, so many steps at the most (P10).
+func (c *Code) Run(input func(channel int) (int, bool), fuel int, see func(api.Event) bool) api.Outcome {
+	return 0
+}
