@@ -1,6 +1,7 @@
 package secrets_test
 
 import (
+	"errors"
 	"fmt"
 
 	"secrets/api"
@@ -21,4 +22,33 @@ func ExampleNewOrder() {
 	// true false true
 	// true false
 	// [{0 5}] [{0 5}]
+}
+
+// A program that keeps its secrets, and one that does not, as README.md shows them.
+func ExampleCompile() {
+	const given = "actor a;actor b;in s {a:};out o {};var h;var l {};"
+	p, err := secrets.Compile(given + "do {get s h;free l=h {} by a;put o l;}")
+	fmt.Println(err)
+	fmt.Print(p.Print())
+	for name, l := range p.Labels() {
+		fmt.Println(name, l)
+	}
+	_, err = secrets.Compile(given + "do {get s h;put o h;}")
+	fmt.Println(err, errors.Is(err, api.ErrFlow))
+	// Output:
+	// <nil>
+	// actor a;
+	// actor b;
+	// in s {a:};
+	// out o {};
+	// var h;
+	// var l {};
+	// do {
+	//   get s h;
+	//   free l = h {} by a;
+	//   put o l;
+	// }
+	// h [{0 1}]
+	// l []
+	// ErrFlow at byte 62 true
 }

@@ -1,20 +1,37 @@
 // Package secrets: labels, programs, codes that run: see DOC.md.
 package secrets
 
-import "secrets/api"
+import (
+	"secrets/api"
+	"secrets/program"
+)
 
 // Program is a program that was read and found to keep its secrets.
-type Program struct{}
+type Program struct{ does program.Program }
 
 // Compile reads and checks a program (P5 to P9).
-func Compile(text string) (*Program, api.Error) { return nil, nil }
+func Compile(text string) (*Program, api.Error) {
+	p, err := program.Compile(text)
+	if err != nil {
+		return nil, err
+	}
+	return &Program{does: p}, nil
+}
+
+// program: no call may panic, so a program that is nil does nothing.
+func (p *Program) program() program.Program {
+	if p == nil {
+		return program.Program{}
+	}
+	return p.does
+}
 
 // Print tells its text, a statement a line (P7).
-func (p *Program) Print() string { return "" }
+func (p *Program) Print() string { return p.program().Print() }
 
 // Labels tells the variables, in their order, each with its label, till yield says no (P8).
 func (p *Program) Labels() func(yield func(name string, l []api.Policy) bool) {
-	return func(yield func(name string, l []api.Policy) bool) {}
+	return p.program().Labels
 }
 
 // Code tells what it is compiled to (P12).
