@@ -63,6 +63,16 @@ func (o Order) fromAbove(l Label, k int) set {
 	return out
 }
 
+// MayGive is the label up to which the actors, as bits, may give away what then has the other label: that, and all that is theirs.
+func (o Order) MayGive(to Label, by int) Label {
+	for k := range o.n {
+		if by>>k&1 == 1 {
+			to = to.Join(o.alone(api.Policy{Owner: k}))
+		}
+	}
+	return to
+}
+
 // Reads tells whether who is an actor, and a reader under each actor.
 func (o Order) Reads(who int, l Label) bool {
 	if !o.isActor(who) {

@@ -59,3 +59,34 @@ func TestLabelsAreValues(t *testing.T) {
 		t.Error("both must flow into their join, and it into neither")
 	}
 }
+
+// Above tells what Over tells, as bits.
+func TestAbove(t *testing.T) {
+	for n := range api.MaxActors + 1 {
+		o := NewOrder(n, [][2]int{{2, 0}, {5, 2}, {1, 3}, {3, 1}})
+		for k := range n {
+			for j := range api.MaxActors + 2 {
+				if o.Above(k)>>j&1 == 1 != o.Over(j, k) {
+					t.Errorf("%d actors: above %d: bits %b, and Over(%d, %d) is %v", n, k, o.Above(k), j, k, o.Over(j, k))
+				}
+			}
+		}
+	}
+}
+
+// MayGive adds a policy of each actor that lets nobody else read; bits of no actors are let be.
+func TestMayGive(t *testing.T) {
+	o := NewOrder(4, [][2]int{{2, 0}, {1, 3}, {3, 1}})
+	to := []api.Policy{{Owner: 0, Readers: 2}}
+	for by := range 1 << 6 {
+		policies := slices.Clone(to)
+		for k := range 6 {
+			if by>>k&1 == 1 {
+				policies = append(policies, api.Policy{Owner: k})
+			}
+		}
+		if got := o.MayGive(o.Of(to), by); got != o.Of(policies) {
+			t.Errorf("by %b: %v, want %v", by, o.Policies(got), o.Policies(o.Of(policies)))
+		}
+	}
+}

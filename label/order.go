@@ -49,6 +49,9 @@ func (o Order) Over(a, b int) bool {
 	return o.isActor(a) && o.isActor(b) && o.above[b].has(a)
 }
 
+// Above tells who acts for actor k, as bits.
+func (o Order) Above(k int) int { return int(o.above[k]) }
+
 func (o Order) isActor(k int) bool { return 0 <= k && k < o.n }
 
 func (o Order) everybody() set { return 1<<o.n - 1 }

@@ -24,19 +24,10 @@ func (p *Program) checkEnds(s statement, told label.Label) {
 		// That the input was asked at all can be seen by those who give it.
 		mustFlow(s, told, p.ins[p.names.number(x.from)])
 	case free:
-		if !p.exprLabel(x.value).Flows(p.mayGive(x)) {
+		if !p.exprLabel(x.value).Flows(p.order.MayGive(p.labelOf(x.label), p.bits(x.by))) {
 			throw(api.ErrBy, s.begins())
 		}
 	}
-}
-
-// mayGive is the label up to which those behind by may let something be freed: its new one, and all that is theirs.
-func (p *Program) mayGive(f free) label.Label {
-	var policies []api.Policy
-	for _, n := range f.by {
-		policies = append(policies, api.Policy{Owner: p.names.number(n)})
-	}
-	return p.labelOf(f.label).Join(p.order.Of(policies))
 }
 
 func mustFlow(s statement, from, to label.Label) {

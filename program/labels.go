@@ -39,13 +39,18 @@ func (p *Program) orderOf() label.Order {
 func (p *Program) labelOf(list []policy) label.Label {
 	var policies []api.Policy
 	for _, one := range list {
-		readers := 0
-		for _, n := range one.readers {
-			readers |= 1 << p.names.number(n)
-		}
-		policies = append(policies, api.Policy{Owner: p.names.number(one.owner), Readers: readers})
+		policies = append(policies, api.Policy{Owner: p.names.number(one.owner), Readers: p.bits(one.readers)})
 	}
 	return p.order.Of(policies)
+}
+
+// bits is the actors of these names.
+func (p *Program) bits(actors []name) int {
+	bits := 0
+	for _, n := range actors {
+		bits |= 1 << p.names.number(n)
+	}
+	return bits
 }
 
 // raise joins to the label of each open variable what flows into it. It tells whether something was missing: then more may flow elsewhere.

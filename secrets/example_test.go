@@ -52,3 +52,33 @@ func ExampleCompile() {
 	// l []
 	// ErrFlow at byte 62 true
 }
+
+// A code that frees what it got, as README.md shows it.
+func ExampleLoad() {
+	c, err := secrets.Load("SCR1" +
+		"\x02\x01\x02" + // two actors, each of whom acts for itself
+		"\x02\x01\x00\x01\x00" + // two labels: the first actor's own, and that of nobody
+		"\x01\x00" + "\x01\x01" + "\x02\x00\x01" + // an input, an output, two variables, with their labels
+		"\x00\x0a\x00\x00" + // Step, Get: from the input into the first variable
+		"\x00\x02\x00\x11\x01\x01\x01" + // Step, Load, Free: to the second variable, by the first actor
+		"\x00\x02\x01\x0b\x00") // Step, Load, Put
+	fmt.Println(err, c.Ins(), c.Outs(), c.Frees())
+	end := c.Run(
+		func(channel int) (int, bool) { return 7, true },
+		9,
+		func(e api.Event) bool {
+			fmt.Println(e)
+			return true
+		},
+	)
+	fmt.Println(end == api.Done)
+	_, err = secrets.Load("SCR1")
+	fmt.Println(err, errors.Is(err, api.ErrCode))
+	// Output:
+	// <nil> [[{0 1}]] [[]] 1
+	// {1 0 7}
+	// {3 1 7}
+	// {2 0 7}
+	// true
+	// ErrCode at byte 0 true
+}

@@ -4,6 +4,7 @@ import (
 	"errors"
 	"fmt"
 	"slices"
+	"strconv"
 	"strings"
 	"testing"
 
@@ -20,7 +21,22 @@ func parted(marked string) (string, int) {
 	return before + behind, len(before)
 }
 
-// faultOf is the Errno and the byte of a text's fault; OK and 0, if it is compiled. All that an error must be is held against it here.
+// partsOf is an error's Errno, one of those that are allowed, and byte. All that an error must be is held against it here.
+func partsOf(t *testing.T, what string, err api.Error, allowed ...api.Errno) (api.Errno, int) {
+	t.Helper()
+	e, at := err.Parts()
+	for k := api.OK; k <= api.ErrCode+1; k++ {
+		if errors.Is(err, k) != (k == e) {
+			t.Fatalf("%s: Parts tells %d, and errors.Is of %d says %v", what, e, k, errors.Is(err, k))
+		}
+	}
+	if !slices.Contains(allowed, e) || err.Error() == "" {
+		t.Fatalf("%s: Errno %d, text %q", what, e, err.Error())
+	}
+	return e, at
+}
+
+// faultOf is the Errno and the byte of a text's fault; OK and 0, if it is compiled.
 func faultOf(t *testing.T, text string) (api.Errno, int) {
 	t.Helper()
 	p, err := secrets.Compile(text)
@@ -33,16 +49,7 @@ func faultOf(t *testing.T, text string) (api.Errno, int) {
 	if p != nil {
 		t.Fatalf("%q: a program beside the error %v", text, err)
 	}
-	e, at := err.Parts()
-	for k := api.OK; k <= api.ErrCode+1; k++ {
-		if errors.Is(err, k) != (k == e) {
-			t.Fatalf("%q: Parts tells %d, and errors.Is of %d says %v", text, e, k, errors.Is(err, k))
-		}
-	}
-	if e <= api.OK || e > api.ErrBy || err.Error() == "" {
-		t.Fatalf("%q: Errno %d, text %q", text, e, err.Error())
-	}
-	return e, at
+	return partsOf(t, strconv.Quote(text), err, api.ErrLong, api.ErrChar, api.ErrName, api.ErrNumber, api.ErrSyntax, api.ErrDepth, api.ErrTwice, api.ErrFull, api.ErrUse, api.ErrFlow, api.ErrBy)
 }
 
 // isFault: the text has that fault at that byte.

@@ -3,6 +3,7 @@ package secrets
 
 import (
 	"secrets/api"
+	"secrets/machine"
 	"secrets/program"
 )
 
@@ -38,24 +39,38 @@ func (p *Program) Labels() func(yield func(name string, l []api.Policy) bool) {
 func (p *Program) Code() *Code { return &Code{} }
 
 // Code is what a machine runs.
-type Code struct{}
+type Code struct{ does machine.Code }
 
 // Load: the code that the bytes are (P11).
-func Load(s string) (*Code, api.Error) { return nil, nil }
+func Load(s string) (*Code, api.Error) {
+	c, err := machine.FromBytes(s)
+	if err != nil {
+		return nil, err
+	}
+	return &Code{does: c}, nil
+}
+
+// code: no call may panic, so a code that is nil does nothing.
+func (c *Code) code() machine.Code {
+	if c == nil {
+		return machine.Code{}
+	}
+	return c.does
+}
 
 // Bytes tells it as bytes (P11).
-func (c *Code) Bytes() string { return "" }
+func (c *Code) Bytes() string { return c.code().Bytes() }
 
 // Order, Ins, Outs, Frees tell who acts for whom; the labels of inputs, of outputs; how many instructions free something (P10).
-func (c *Code) Order() *Order { return &Order{} }
+func (c *Code) Order() *Order { return &Order{who: c.code().Order()} }
 
-func (c *Code) Ins() [][]api.Policy { return nil }
+func (c *Code) Ins() [][]api.Policy { return c.code().Ins() }
 
-func (c *Code) Outs() [][]api.Policy { return nil }
+func (c *Code) Outs() [][]api.Policy { return c.code().Outs() }
 
-func (c *Code) Frees() int { return 0 }
+func (c *Code) Frees() int { return c.code().Frees() }
 
 // Run runs it from its beginning, so many steps at the most (P10).
 func (c *Code) Run(input func(channel int) (int, bool), fuel int, see func(api.Event) bool) api.Outcome {
-	return 0
+	return c.code().Run(input, fuel, see)
 }
