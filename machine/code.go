@@ -2,6 +2,8 @@
 package machine
 
 import (
+	"slices"
+
 	"secrets/api"
 	"secrets/label"
 )
@@ -25,6 +27,13 @@ type Instruction struct {
 
 	depth int // in how many parts of If and Loop it stands
 	to    int // where the run goes on, if not at the next instruction
+}
+
+// New is the code of these parts. Who writes the instructions sees to it that they stand as P11 asks.
+func New(order label.Order, ins, outs, vars []label.Label, does []Instruction) Code {
+	c := Code{order: order, ins: slices.Clone(ins), outs: slices.Clone(outs), vars: slices.Clone(vars), does: slices.Clone(does)}
+	link(c.does)
+	return c
 }
 
 // Order tells who acts for whom.

@@ -1,4 +1,4 @@
-// Package program: texts of programs read, held against the rules, labelled and printed (P5 to P9).
+// Package program: texts of programs read, held against the rules, labelled, printed and compiled (P5 to P9, P12).
 package program
 
 import (

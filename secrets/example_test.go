@@ -82,3 +82,31 @@ func ExampleLoad() {
 	// true
 	// ErrCode at byte 0 true
 }
+
+// A program that is compiled and run, as README.md shows it.
+func ExampleProgram_Code() {
+	p, err := secrets.Compile("actor a;actor b;in s {a:};out o {};var h;var l {};do {get s h;free l=h {} by a;put o l;}")
+	fmt.Println(err)
+	c := p.Code()
+	seven := func(channel int) (int, bool) { return 7, true }
+	see := func(e api.Event) bool {
+		fmt.Println(e)
+		return true
+	}
+	fmt.Println(c.Run(seven, 9, see) == api.Done)
+	fmt.Println(c.Run(seven, 2, see) == api.Fuel)
+	again, err := secrets.Load(c.Bytes())
+	fmt.Println(err, again.Bytes() == c.Bytes())
+	fmt.Printf("%x\n", c.Bytes())
+	// Output:
+	// <nil>
+	// {1 0 7}
+	// {3 1 7}
+	// {2 0 7}
+	// true
+	// {1 0 7}
+	// {3 1 7}
+	// true
+	// <nil> true
+	// 53435231020102020100010001000101020001000a0000000200110101010002010b00
+}

@@ -7,6 +7,7 @@ import (
 	"testing"
 
 	"secrets/api"
+	"secrets/secrets"
 )
 
 // does: the instructions in a code of abc's, with fuel for all steps, do that.
@@ -25,7 +26,7 @@ func doesAll(t *testing.T, rows [][2]string) {
 	}
 }
 
-// The document's example: H do {get s h;free l=h {} by c;put o l;}.
+// The document's example, as bytes and as a program.
 func TestDocumentsRun(t *testing.T) {
 	s := sheet{
 		above:  []int{5, 2, 4},
@@ -33,7 +34,7 @@ func TestDocumentsRun(t *testing.T) {
 		ins:    []int{0, 1}, outs: []int{1, 1}, vars: []int{0, 1},
 		does: "Step Get 0 0 Step Load 0 Free 1 1 4 Step Load 1 Put 0",
 	}
-	c := loaded(t, s)
+	compiled := codeOf(t, head+"do {get s h;free l=h {} by c;put o l;}")
 	for _, r := range []struct {
 		in   [][]int
 		fuel int
@@ -44,8 +45,10 @@ func TestDocumentsRun(t *testing.T) {
 		{[][]int{{7}}, 2, "ask 0; Got 0 7; Freed 1 7; Fuel"},
 		{nil, 9, "ask 0; Input"},
 	} {
-		if got := ran(c, r.in, r.fuel, 0); got != r.want {
-			t.Errorf("fuel %d: %s, want %s", r.fuel, got, r.want)
+		for _, c := range []*secrets.Code{loaded(t, s), compiled} {
+			if got := ran(c, r.in, r.fuel, 0); got != r.want {
+				t.Errorf("fuel %d: %s, want %s", r.fuel, got, r.want)
+			}
 		}
 	}
 }

@@ -36,7 +36,7 @@ func (p *Program) Labels() func(yield func(name string, l []api.Policy) bool) {
 }
 
 // Code tells what it is compiled to (P12).
-func (p *Program) Code() *Code { return &Code{} }
+func (p *Program) Code() *Code { return &Code{does: p.program().Code()} }
 
 // Code is what a machine runs.
 type Code struct{ does machine.Code }

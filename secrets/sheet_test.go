@@ -65,6 +65,32 @@ func (s sheet) bytes() string {
 	return string(out) + wordBytes(s.does)
 }
 
+// place is where the label stands; behind all others, if it did not stand there so far.
+func (s *sheet) place(l []api.Policy) int {
+	for k, other := range s.labels {
+		if slices.Equal(l, other) {
+			return k
+		}
+	}
+	s.labels = append(s.labels, l)
+	return len(s.labels) - 1
+}
+
+// above: for each actor who acts for it, as bits.
+func (s spec) above() []int {
+	var l []int
+	for k := range s.n {
+		bits := 0
+		for j := range s.n {
+			if s.over(j, k) {
+				bits |= 1 << j
+			}
+		}
+		l = append(l, bits)
+	}
+	return l
+}
+
 // wordBytes: an instruction's name is its number; behind Push a number has four bytes, elsewhere one; a number that begins with # has one even there.
 func wordBytes(text string) string {
 	var out []byte

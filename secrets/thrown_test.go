@@ -162,23 +162,27 @@ func (m *maker) variables() {
 func (m *maker) expr(deep int) []int {
 	switch m.d.below(6 + deep) {
 	case 0, 1:
-		m.word(fmt.Sprint(m.d.below(1000)))
+		m.word([]string{"0", "1", "007", "999999999", fmt.Sprint(m.d.below(1000))}[m.d.below(5)])
 		return nil
-	case 2:
-		m.word("(")
-		vars := m.expr(deep + 1)
-		m.word(")")
-		return vars
-	case 3, 4:
-		vars := m.atom()
-		m.word([]string{"+", "-", "*", "/"}[m.d.below(4)])
-		return append(vars, m.atom()...)
+	case 2, 3, 4:
+		vars := m.side(deep)
+		m.word([]string{"+", "-", "*", "/", "<", "=="}[m.d.below(6)])
+		return append(vars, m.side(deep)...)
 	}
-	return m.atom()
+	return m.side(deep)
 }
 
-func (m *maker) atom() []int {
-	if m.d.below(3) == 0 {
+// side writes an atom; the variables in it.
+func (m *maker) side(deep int) []int {
+	switch m.d.below(4) {
+	case 0:
+		if deep < 6 {
+			m.word("(")
+			vars := m.expr(deep + 1)
+			m.word(")")
+			return vars
+		}
+	case 1:
 		m.word("7")
 		return nil
 	}

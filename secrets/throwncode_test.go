@@ -28,15 +28,7 @@ func (d *dice) code() sheet {
 	}
 	pairs := d.pairs(3)
 	m := &codeMaker{d: d, who: specOf(n, pairs), left: 2 + d.below(12)}
-	for k := range n {
-		bits := 0
-		for j := range n {
-			if m.who.over(j, k) {
-				bits |= 1 << j
-			}
-		}
-		m.s.above = append(m.s.above, bits)
-	}
+	m.s.above = m.who.above()
 	m.pool = [][]api.Policy{nil}
 	for range d.below(4) {
 		m.pool = append(m.pool, m.who.norm(d.label()))
@@ -49,17 +41,8 @@ func (d *dice) code() sheet {
 	return m.s
 }
 
-// place is a thrown label's place: behind all others, if it has not been used so far.
-func (m *codeMaker) place() int {
-	l := m.pool[m.d.below(len(m.pool))]
-	for k, other := range m.s.labels {
-		if slices.Equal(l, other) {
-			return k
-		}
-	}
-	m.s.labels = append(m.s.labels, l)
-	return len(m.s.labels) - 1
-}
+// place is a thrown label's place.
+func (m *codeMaker) place() int { return m.s.place(m.pool[m.d.below(len(m.pool))]) }
 
 func (m *codeMaker) places(n int) []int {
 	var l []int
@@ -149,6 +132,21 @@ func (d *dice) inputs() [][]int {
 	return l
 }
 
+// runsAsSaid throws what comes, runs the code with it, and holds that against what is said; it counts what there was to be seen.
+func (d *dice) runsAsSaid(t *testing.T, of string, c *secrets.Code, said func(w *world, fuel int) api.Outcome, counts map[string]int) {
+	t.Helper()
+	in, fuel, most := d.inputs(), d.below(30)-1, d.below(9)
+	w := &world{inputs: slices.Clone(in), most: most}
+	want := w.ends(said(w, fuel))
+	if got := ran(c, in, fuel, most); got != want {
+		t.Fatalf("%s with %v, fuel %d, no at %d: %s, want %s", of, in, fuel, most, got, want)
+	}
+	counts[want[strings.LastIndex(want, " ")+1:]]++
+	for _, kind := range kindsOfEvents {
+		counts[kind] += strings.Count(want, kind)
+	}
+}
+
 // P10, of thrown codes, as the words say it.
 func TestRunsAsSaid(t *testing.T) {
 	d := dice(17)
@@ -160,16 +158,7 @@ func TestRunsAsSaid(t *testing.T) {
 			t.Fatalf("%+v: tells %v %v %d", s, c.Ins(), c.Outs(), c.Frees())
 		}
 		for range 5 {
-			in, fuel, most := d.inputs(), d.below(25)-1, d.below(8)
-			w := &world{inputs: slices.Clone(in), most: most}
-			want := w.ends(said.run(w, fuel))
-			if got := ran(c, in, fuel, most); got != want {
-				t.Fatalf("%+v with %v, fuel %d, no at %d: %s, want %s", s, in, fuel, most, got, want)
-			}
-			counts[want[strings.LastIndex(want, " ")+1:]]++
-			for _, kind := range kindsOfEvents {
-				counts[kind] += strings.Count(want, kind)
-			}
+			d.runsAsSaid(t, fmt.Sprintf("%+v", s), c, said.run, counts)
 		}
 	}
 	for _, word := range slices.Concat(outcomes, kindsOfEvents[1:]) {
